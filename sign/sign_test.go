@@ -97,16 +97,16 @@ func addByRule(l []api.Fun, x api.Fun) ([]api.Fun, api.Errno) {
 
 // joinByRule is Join, word by word.
 func joinByRule(a, b []api.Fun) ([]api.Fun, api.Errno) {
+	joined, e := a, api.OK
 	for _, x := range b {
 		if slices.Contains(a, x) {
 			continue
 		}
-		var e api.Errno
-		if a, e = addByRule(a, x); e != api.OK {
+		if joined, e = addByRule(joined, x); e != api.OK {
 			return nil, e
 		}
 	}
-	return a, api.OK
+	return joined, api.OK
 }
 
 // rightByRule is Right, word by word.
@@ -184,7 +184,8 @@ func TestJoin(t *testing.T) {
 	}{
 		{"f/1", "g/2", "f/1 g/2", api.OK}, {"f/1 g/2", "g/2 h/0 f/1 a/0", "f/1 g/2 h/0 a/0", api.OK}, {"", "f/1 g/2", "f/1 g/2", api.OK}, {"f/1 g/2", "", "f/1 g/2", api.OK}, {"", "", "", api.OK},
 		{"f/1", "f/2", "", api.ErrTwice}, {"f/1", "g/2 f/0", "", api.ErrTwice}, {"f/1", "g/7", "", api.ErrArg}, {"f/1", "F/1", "", api.ErrArg}, {"f/1", "g/7 f/2", "", api.ErrArg}, {"f/1", "f/2 g/7", "", api.ErrTwice}, {"f/1", "f/7", "", api.ErrArg},
-		{"", "f/1 f/1", "f/1", api.OK}, {"", "f/1 f/2", "", api.ErrTwice}, {"g/1", "f/1 g/1 f/1 h/1 h/1", "g/1 f/1 h/1", api.OK},
+		{"", "f/1 f/1", "", api.ErrTwice}, {"", "b/2 b/2", "", api.ErrTwice}, {"", "b/2 a/0 a/0", "", api.ErrTwice}, {"", "f/1 f/2", "", api.ErrTwice}, {"g/1", "f/1 g/1 f/1", "", api.ErrTwice}, {"g/1", "f/1 g/1 f/7 f/1", "", api.ErrArg}, {"g/1", "f/1 f/1 g/7", "", api.ErrTwice},
+		{"b/2", "b/2 b/2", "b/2", api.OK}, {"g/1", "g/1 f/1 g/1 h/1 g/1", "g/1 f/1 h/1", api.OK}, {"g/1", "g/1 f/1 g/1 f/1 g/1", "", api.ErrTwice}, {"f/1 f/1", "f/1 g/1 f/1", "f/1 f/1 g/1", api.OK}, {"f/1 f/1", "g/1 g/1", "", api.ErrTwice}, {written(many(39)), "f/1 f/1", "", api.ErrTwice},
 		{"f/1 f/1", "f/1", "f/1 f/1", api.OK}, {"f/1 f/2", "f/2 g/1", "f/1 f/2 g/1", api.OK}, {"F/9 f/-1", "f/-1 F/9 g/1", "F/9 f/-1 g/1", api.OK},
 		{written(many(39)), "f/1 n0/0", written(many(39)) + " f/1", api.OK}, {written(many(39)), "f/1 g/1", "", api.ErrLong}, {written(many(40)), written(many(40)), written(many(40)), api.OK}, {written(many(50)), written(many(45)), written(many(50)), api.OK},
 		{written(many(40)), "f/1", "", api.ErrLong}, {written(many(40)), "n0/1", "", api.ErrTwice}, {"", written(many(40)), written(many(40)), api.OK}, {"", written(many(41)), "", api.ErrLong}, {"", written(many(41)) + " f/7", "", api.ErrLong}, {"n41/0", written(many(39)), "n41/0 " + written(many(39)), api.OK},
@@ -213,8 +214,8 @@ func TestRight(t *testing.T) {
 // P10.1, held against the words of the rules, for all short lists.
 func TestListsByRule(t *testing.T) {
 	of := funs("f/0 f/1 g/6 g/7 h/-1 rule/0 H/1 a/0")
-	short := rows(2, of)
-	for _, a := range rows(3, of) {
+	all := rows(3, of)
+	for _, a := range all {
 		for _, x := range of {
 			l, e := Add(a, x)
 			if want, we := addByRule(a, x); e != we || !slices.Equal(l, want) {
@@ -226,7 +227,7 @@ func TestListsByRule(t *testing.T) {
 				t.Fatalf("Arity(%s, %s) = %d, %v", written(a), x.Name, n, is)
 			}
 		}
-		for _, b := range short {
+		for _, b := range all {
 			l, e := Join(a, b)
 			if want, we := joinByRule(a, b); e != we || !slices.Equal(l, want) {
 				t.Fatalf("Join(%s, %s) = %s, %d; want %s, %d", written(a), written(b), written(l), e, written(want), we)
